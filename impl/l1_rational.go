@@ -346,7 +346,7 @@ func isNumeral(text string) bool {
 		return false
 	}
 	for i := range len(text) {
-		if text[i] < '0' || text[i] > '9' {
+		if !isDigit(text[i]) {
 			return false
 		}
 	}
