@@ -335,6 +335,10 @@ func expectSyntaxConsistent(t *testing.T, p impl.Program, text string, e int, bl
 // overwrite changes all elements of the lists of a result, with their spare capacity.
 func overwrite(result any) {
 	switch r := result.(type) {
+	case []int:
+		fill(r, 77)
+	case []impl.TypeError:
+		fill(r, impl.TypeError{Code: 77})
 	case []string:
 		fill(r, "overwritten")
 	case []impl.Expr:
