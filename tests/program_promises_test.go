@@ -3,6 +3,7 @@ package tests
 import (
 	"fmt"
 	"math"
+	"math/big"
 	"math/rand"
 	"reflect"
 	"slices"
@@ -45,15 +46,18 @@ func valueByMemo(exprs []impl.Expr, e int, values []int, known map[int]int) int 
 	return known[e]
 }
 
-// run is one execution, in which the samples select the choices with the indices in picks. Those after them select the
-// first choice, or a random one if there is a source.
+// run is one execution, in which the samples select the choices with the indices in picks. Those after them select a random
+// choice if there is a source, and the one of the next draw, or of the draw 0, if there is none.
 type run struct {
-	p      impl.Program
-	picks  []int
-	source *rand.Rand
-	sizes  []int
-	values []int
-	steps  int
+	p        impl.Program
+	picks    []int
+	draws    []int
+	source   *rand.Rand
+	sizes    []int
+	chances  []*big.Rat
+	values   []int
+	rejected bool
+	steps    int
 }
 
 // maxSteps ends an execution of nested loops that would take too long for a test.
@@ -72,11 +76,34 @@ func (r *run) block(block []int, fuel int) bool {
 	return true
 }
 
-func (r *run) first(choices int) int {
-	if r.source == nil {
-		return 0
+// pick returns the index of the choice of a draw: of as many lots as the sum of the weights, each choice has its weight.
+func (r *run) pick(choices []impl.Choice) int {
+	if r.source != nil {
+		return r.source.Intn(len(choices))
 	}
-	return r.source.Intn(choices)
+	draw := 0
+	if n := len(r.sizes); n < len(r.draws) {
+		draw = r.draws[n]
+	}
+	var lots []int
+	for i, c := range choices {
+		lots = append(lots, slices.Repeat([]int{i}, c.Weight)...)
+	}
+	return lots[draw%len(lots)]
+}
+
+// sample selects one of the choices.
+func (r *run) sample(s impl.Stmt) {
+	if len(r.sizes) == len(r.picks) {
+		r.picks = append(r.picks, r.pick(s.Choices))
+	}
+	selected, total := s.Choices[r.picks[len(r.sizes)]], 0
+	for _, c := range s.Choices {
+		total += c.Weight
+	}
+	r.values[s.Var] = selected.Value
+	r.sizes = append(r.sizes, len(s.Choices))
+	r.chances = append(r.chances, big.NewRat(int64(selected.Weight), int64(total)))
 }
 
 func (r *run) stmt(s impl.Stmt, fuel int) bool {
@@ -84,13 +111,10 @@ func (r *run) stmt(s impl.Stmt, fuel int) bool {
 	case impl.StAssign:
 		r.values[s.Var] = valueByMemo(r.p.Exprs, s.Expr, r.values, map[int]int{}) % r.p.Vars[s.Var].Size
 	case impl.StSample:
-		if len(r.sizes) == len(r.picks) {
-			r.picks = append(r.picks, r.first(len(s.Choices)))
-		}
-		r.values[s.Var] = s.Choices[r.picks[len(r.sizes)]].Value
-		r.sizes = append(r.sizes, len(s.Choices))
+		r.sample(s)
 	case impl.StObserve:
-		return r.holds(s.Expr)
+		r.rejected = !r.holds(s.Expr)
+		return !r.rejected
 	case impl.StIf:
 		if r.holds(s.Expr) {
 			return r.block(s.Then, fuel)
