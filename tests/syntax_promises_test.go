@@ -337,6 +337,11 @@ func overwrite(result any) {
 	switch r := result.(type) {
 	case []int:
 		fill(r, 77)
+	case [][]int:
+		for _, list := range r {
+			fill(list, 77)
+		}
+		fill(r, []int{77})
 	case []impl.TypeError:
 		fill(r, impl.TypeError{Code: 77})
 	case []string:
