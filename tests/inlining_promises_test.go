@@ -309,15 +309,8 @@ func TestPromise33InliningNeitherModifiesNorShares(t *testing.T) {
 		before := whole(p)
 		calls := inliningCalls(p, i%3)
 		first := describe(calls)
-		for at, result := range calls {
-			if q, ok := result.(impl.Program); ok {
-				expectApart(t, "result", spansIn(q), spansIn(p))
-			}
-			others := describe(slices.Concat(calls[:at], calls[at+1:]))
-			if overwrite(result); describe(slices.Concat(calls[:at], calls[at+1:])) != others {
-				t.Fatalf("case %d: result %d shares memory with another one", i, at)
-			}
-		}
+		expectProgramsApart(t, calls, spansIn(p))
+		expectUnshared(t, calls, overwrite)
 		if !reflect.DeepEqual(whole(p), before) {
 			t.Fatalf("case %d: the program was modified, or a result shares its memory", i)
 		}

@@ -1,6 +1,7 @@
 package tests
 
 import (
+	"fmt"
 	"slices"
 	"testing"
 	"unsafe"
@@ -233,6 +234,16 @@ func spansIn(p impl.Program) []span {
 		spans = append(spans, spanOf(unsafe.Slice(unsafe.StringData(proc.Name), len(proc.Name))))
 	}
 	return slices.DeleteFunc(spans, func(s span) bool { return s.start == s.end })
+}
+
+// expectProgramsApart checks that no program among the results shares memory with an argument or within itself.
+func expectProgramsApart(t *testing.T, results []any, argument []span) {
+	t.Helper()
+	for i, result := range results {
+		if p, ok := result.(impl.Program); ok {
+			expectApart(t, fmt.Sprint("result ", i), spansIn(p), argument)
+		}
+	}
 }
 
 // expectApart checks that parts of a result share no memory with each other or with an argument.

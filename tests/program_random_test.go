@@ -164,6 +164,26 @@ func spoil(source *rand.Rand, p *impl.Program) {
 	}
 }
 
+// examplesAndFaults returns valid programs and invalid ones.
+func examplesAndFaults() []impl.Program {
+	programs := append(validPrograms(), programOfAll(), ladder(), exampleOfTyping(), exampleOfInlining(), outOfOrder())
+	for _, p := range invalidPrograms() {
+		programs = append(programs, p)
+	}
+	return programs
+}
+
+// addWithSpoiled appends programs to a list, each followed by one with small random changes.
+func addWithSpoiled(programs *[]impl.Program) func(source *rand.Rand, p impl.Program) {
+	return func(source *rand.Rand, p impl.Program) {
+		*programs = append(*programs, clonedProgram(p))
+		for range source.Intn(6) {
+			spoil(source, &p)
+		}
+		*programs = append(*programs, p)
+	}
+}
+
 var namePattern = regexp.MustCompile(`^[a-z][a-z0-9]{0,7}$`)
 
 // conditions returns what a valid program fulfils, as far as no condition needs an earlier one to make sense.

@@ -535,12 +535,7 @@ func TestPromise33SemanticsNeitherModifiesNorShares(t *testing.T) {
 		before, resultBefore, drawsBefore := whole(p), wholeResult(r), slices.Clone(draws[:cap(draws)])
 		calls := semanticsCalls(p, draws, r, i%3)
 		first := describe(calls)
-		for at, result := range calls {
-			others := describe(slices.Concat(calls[:at], calls[at+1:]))
-			if overwriteSemantics(result); describe(slices.Concat(calls[:at], calls[at+1:])) != others {
-				t.Fatalf("case %d: result %d shares memory with another one", i, at)
-			}
-		}
+		expectUnshared(t, calls, overwriteSemantics)
 		if !reflect.DeepEqual(whole(p), before) || !reflect.DeepEqual(wholeResult(r), resultBefore) || !slices.Equal(draws[:cap(draws)], drawsBefore) {
 			t.Fatalf("case %d: an argument was modified, or a result shares its memory", i)
 		}

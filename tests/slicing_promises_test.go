@@ -279,17 +279,8 @@ func expectSlicingConsistent(t *testing.T, p, q impl.Program, keep []int) {
 }
 
 func TestPromise33SlicingAcceptsAllArguments(t *testing.T) {
-	programs := append(validPrograms(), programOfAll(), ladder(), exampleOfTyping(), exampleOfInlining(), outOfOrder())
-	for _, p := range invalidPrograms() {
-		programs = append(programs, p)
-	}
-	add := func(source *rand.Rand, p impl.Program) {
-		programs = append(programs, clonedProgram(p))
-		for range source.Intn(6) {
-			spoil(source, &p)
-		}
-		programs = append(programs, p)
-	}
+	programs := examplesAndFaults()
+	add := addWithSpoiled(&programs)
 	randomUnrolledPrograms(88, 800, add)
 	randomCallingPrograms(89, 200, add)
 	ints := []int{math.MinInt, -1, 0, 1, 2, 4, 5, math.MaxInt}
@@ -316,15 +307,8 @@ func TestPromise33SlicingNeitherModifiesNorShares(t *testing.T) {
 		before, keepBefore := whole(p), slices.Clone(keep[:cap(keep)])
 		calls := slicingCalls(p, q, keep)
 		first := describe(calls)
-		for at, result := range calls {
-			if r, ok := result.(impl.Program); ok {
-				expectApart(t, "result", spansIn(r), append(spansIn(p), spanOf(keep)))
-			}
-			others := describe(slices.Concat(calls[:at], calls[at+1:]))
-			if overwrite(result); describe(slices.Concat(calls[:at], calls[at+1:])) != others {
-				t.Fatalf("case %d: result %d shares memory with another one", i, at)
-			}
-		}
+		expectProgramsApart(t, calls, append(spansIn(p), spanOf(keep)))
+		expectUnshared(t, calls, overwrite)
 		if !reflect.DeepEqual(whole(p), before) || !reflect.DeepEqual(whole(q), before) || !slices.Equal(keep[:cap(keep)], keepBefore) {
 			t.Fatalf("case %d: an argument was modified, or a result shares its memory", i)
 		}

@@ -348,6 +348,11 @@ func overwrite(result any) {
 		fill(r, "overwritten")
 	case []impl.Expr:
 		fill(r, impl.Expr{Op: 77})
+	case []impl.Coin:
+		fill(r, impl.Coin{Stmt: 77})
+	case impl.CoinRun:
+		fill(r.Values, 77)
+		fill(r.Reached, 77)
 	case impl.Program:
 		for _, s := range r.Stmts {
 			fill(s.Choices, impl.Choice{Value: 77})
@@ -359,6 +364,18 @@ func overwrite(result any) {
 		fill(r.Exprs, impl.Expr{Op: 77})
 		fill(r.Stmts, impl.Stmt{Kind: 77})
 		fill(r.Procs, impl.Proc{Name: "overwritten"})
+	}
+}
+
+// expectUnshared overwrites the results of several calls one after the other, and checks that this changes none of the
+// others.
+func expectUnshared(t *testing.T, results []any, overwrite func(result any)) {
+	t.Helper()
+	for at, result := range results {
+		others := describe(slices.Concat(results[:at], results[at+1:]))
+		if overwrite(result); describe(slices.Concat(results[:at], results[at+1:])) != others {
+			t.Fatalf("result %d shares memory with another one", at)
+		}
 	}
 }
 

@@ -276,12 +276,7 @@ func TestPromise33TypingNeitherModifiesNorShares(t *testing.T) {
 		before, resourcesBefore := whole(p), slices.Clone(resources[:cap(resources)])
 		results := typingCalls(p, len(p.Exprs)-1, resources)
 		first := describe(results)
-		for at, result := range results {
-			others := describe(slices.Concat(results[:at], results[at+1:]))
-			if overwrite(result); describe(slices.Concat(results[:at], results[at+1:])) != others {
-				t.Fatalf("case %d: result %d shares memory with another one", i, at)
-			}
-		}
+		expectUnshared(t, results, overwrite)
 		if !reflect.DeepEqual(whole(p), before) || !slices.Equal(resources[:cap(resources)], resourcesBefore) {
 			t.Fatalf("case %d: an argument was modified, or a result shares its memory", i)
 		}
