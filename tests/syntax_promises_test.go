@@ -353,6 +353,8 @@ func overwrite(result any) {
 	case impl.CoinRun:
 		fill(r.Values, 77)
 		fill(r.Reached, 77)
+	case impl.Diagram:
+		fill(r.Nodes, impl.DiagramNode{Level: 77})
 	case impl.Program:
 		for _, s := range r.Stmts {
 			fill(s.Choices, impl.Choice{Value: 77})
