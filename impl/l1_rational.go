@@ -53,7 +53,7 @@ func SubRat(a Rat, b Rat) (Rat, bool) {
 	if !ok {
 		return Rat{}, false
 	}
-	return ratOfFraction(addFractions(x, negateFraction(y)))
+	return ratOfFraction(subtractFractions(x, y))
 }
 
 // MulRat returns a * b.
@@ -262,6 +262,8 @@ func addSigned(aNeg bool, a natural, bNeg bool, b natural) (bool, natural) {
 	}
 	return aNeg, subtractNaturals(a, b)
 }
+
+func subtractFractions(a, b fraction) fraction { return addFractions(a, negateFraction(b)) }
 
 func negateFraction(f fraction) fraction {
 	f.neg = !f.neg && !f.isZero()
