@@ -6,6 +6,7 @@ import (
 	"math/rand"
 	"reflect"
 	"slices"
+	"sync"
 	"testing"
 
 	"loop.example/g00893/impl"
@@ -385,7 +386,16 @@ func semanticsCalls(p impl.Program, draws []int, r impl.Result, e int) []any {
 		probability, okProbability, mean, okMean, text, okText, impl.EqualStates(r.States, inferred.States), impl.IsValidResult(r)}
 }
 
-func isNumber(r impl.Rat) bool { return r != (impl.Rat{}) && !slices.Contains(invalidRats(), r) }
+// notNumbers makes the set of invalidRats only once, because some of them are long.
+var notNumbers = sync.OnceValue(func() map[impl.Rat]bool {
+	set := map[impl.Rat]bool{{}: true}
+	for _, r := range invalidRats() {
+		set[r] = true
+	}
+	return set
+})
+
+func isNumber(r impl.Rat) bool { return !notNumbers()[r] }
 
 // isListByTable reports whether a list of weighted states is valid, as far as masses are numbers.
 func isListByTable(t *testing.T, list []impl.Weighted) bool {
